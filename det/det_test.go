@@ -779,3 +779,26 @@ func TestOf(t *testing.T) {
 		t.Error(d)
 	}
 }
+
+// Fewest, Blend: as Least and Mixed, beyond what may come from outside.
+func TestBeyondLimits(t *testing.T) {
+	if d := det.Fewest(ring(16, 7)); !reflect.DeepEqual(d, ring(16, 7)) {
+		t.Error(d)
+	}
+	twice := ring(9, 8000)
+	twice.Mark[4000] = 1
+	if d := det.Fewest(twice); !reflect.DeepEqual(d, ring(9, 4000)) {
+		t.Error(len(d.Next))
+	}
+	if d := det.Blend(ring(5, 71), ring(5, 61), 8); !reflect.DeepEqual(d, ring(5, 71*61)) {
+		t.Error(len(d.Next))
+	}
+	x := dice(8)
+	for i := range 100 {
+		a, b := x.det(3, 1+x.roll(6)), x.det(3, 1+x.roll(6))
+		want, e := det.Mixed(a, b, i%16)
+		if d := det.Blend(a, b, i%16); !reflect.DeepEqual(d, want) || e != api.OK {
+			t.Fatalf("%v, %v by %d: %v, not %v, %v", a, b, i%16, d, want, e)
+		}
+	}
+}

@@ -6,8 +6,9 @@ import (
 	"evermore/api"
 )
 
-// least takes d for one that is right: Check is for those that come from outside.
-func least(d api.Det) api.Det {
+// Fewest is Least of an automaton that the program made itself, over however many letters and with however many
+// states: it takes d for one that is right, Check being for those that come from outside.
+func Fewest(d api.Det) api.Det {
 	reached := Of(d.Letters, d.Start, goes(d), accepts(d))
 	class, one := classesOf(reached)
 	next := func(c, l int) int { return class[reached.Next[one[c]][l]] }
