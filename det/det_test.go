@@ -781,6 +781,26 @@ func TestOf(t *testing.T) {
 }
 
 // Fewest, Blend: as Least and Mixed, beyond what may come from outside.
+func TestMarked(t *testing.T) {
+	d := det.Marked(1, 5, func(s, l int) int { return (s + 3) % 7 }, func(s int) int { return 10 * s })
+	if want := []int{50, 10, 40, 0, 30, 60, 20}; !slices.Equal(d.Mark, want) || d.Start != 0 || d.Next[6][0] != 0 {
+		t.Error(d)
+	}
+}
+
+func TestFits(t *testing.T) {
+	d := ring(2, 5)
+	d.Mark[3] = 7
+	for _, x := range []struct {
+		states, mark int
+		want         api.Errno
+	}{{5, 7, api.OK}, {9, 9, api.OK}, {4, 7, api.ErrSize}, {5, 6, api.ErrRange}} {
+		if e := det.Fits(d, x.states, x.mark); e != x.want {
+			t.Error(x, e)
+		}
+	}
+}
+
 func TestBeyondLimits(t *testing.T) {
 	if d := det.Fewest(ring(16, 7)); !reflect.DeepEqual(d, ring(16, 7)) {
 		t.Error(d)

@@ -7,6 +7,11 @@ import "evermore/api"
 // state, letter by letter; so of two that differ in nothing but the names of their states the same comes out.
 // There must be an end to the states that are come to.
 func Of[S comparable](letters int, start S, next func(S, int) S, mark func(S) bool) api.Det {
+	return Marked(letters, start, next, func(s S) int { return bit(mark(s)) })
+}
+
+// Marked is Of with whatever numbers for marks.
+func Marked[S comparable](letters int, start S, next func(S, int) S, mark func(S) int) api.Det {
 	d := api.Det{Letters: letters}
 	states, number := []S{start}, map[S]int{start: 0}
 	for i := 0; i < len(states); i++ {
@@ -22,7 +27,7 @@ func Of[S comparable](letters int, start S, next func(S, int) S, mark func(S) bo
 			row[l] = n
 		}
 		d.Next = append(d.Next, row)
-		d.Mark = append(d.Mark, bit(mark(states[i])))
+		d.Mark = append(d.Mark, mark(states[i]))
 	}
 	return d
 }
