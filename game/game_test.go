@@ -310,6 +310,20 @@ func TestHard(t *testing.T) {
 	}
 }
 
+// Solved, beyond what J1 lets pass: more places, greater marks.
+func TestSolved(t *testing.T) {
+	x := dice(6)
+	for i := range 60 {
+		g := x.game(61+20*i, 2+i, 3)
+		for p := range g.Mark {
+			g.Mark[p] += 5 * (i % 4)
+		}
+		if s := judge(g, game.Solved(g)); s != "" {
+			t.Fatal(i, s)
+		}
+	}
+}
+
 // P3: what is handed in is left as it is, and what comes out shares memory with nothing.
 func TestMemory(t *testing.T) {
 	roomy := func(row ...int) []int { return append(row, 99, 99)[:len(row)] }

@@ -1,6 +1,7 @@
 package game
 
 import (
+	"math"
 	"slices"
 
 	"evermore/api"
@@ -40,8 +41,8 @@ type solver struct {
 	from [][]int
 }
 
-// solved solves a game, of whatever size, that is right otherwise.
-func solved(g api.Game) api.Won {
+// Solved solves a game that is right but for how many places it has, and how great its marks are.
+func Solved(g api.Game) api.Won {
 	n := len(g.Owner)
 	s := &solver{Game: g, from: make([][]int, n)}
 	s.Winner, s.Move = make([]int, n), make([]int, n)
@@ -80,7 +81,7 @@ func (s *solver) solve(part set) {
 }
 
 func (s *solver) leastMark(part set) int {
-	least := api.MaxMark
+	least := math.MaxInt
 	for _, p := range part.places() {
 		least = min(least, s.Mark[p])
 	}
