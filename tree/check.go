@@ -33,7 +33,8 @@ func marksWithin(t api.Trees) bool {
 	return true
 }
 
-func rise(rules []api.Rule) bool {
+// Rise tells whether rules rise, by Letter, then Left, then Right, then To.
+func Rise(rules []api.Rule) bool {
 	for i := 1; i < len(rules); i++ {
 		if order(rules[i-1], rules[i]) >= 0 {
 			return false
