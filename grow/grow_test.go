@@ -226,7 +226,8 @@ func TestLimits(t *testing.T) {
 	}
 }
 
-// M4: all small automata, held against all choices of rules, and all ways.
+// M4: all automata of one letter and two states, and of three states all with three rules (from 0), with marks up to
+// 2, held against all choices of rules, and all ways.
 func TestSmall(t *testing.T) {
 	var many [2]int
 	hold := func(a api.Trees) {
@@ -250,8 +251,9 @@ func TestSmall(t *testing.T) {
 	for i := range space {
 		for j := range i {
 			for k := range j {
-				marks := (i + j + k) % 27
-				hold(auto(1, []int{marks % 3, marks / 3 % 3, marks / 9}, space[i], space[j], space[k]))
+				for m := range 27 {
+					hold(auto(1, []int{m % 3, m / 3 % 3, m / 9}, space[k], space[j], space[i]))
+				}
 			}
 		}
 	}
